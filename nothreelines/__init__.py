@@ -1,0 +1,1 @@
+"""No three in a line: points of numbers modulo 3."""
