@@ -1,7 +1,8 @@
-"""Points of n numbers modulo 3: the third of two points, and a set's threes in a line."""
+"""Points of n numbers modulo 3: thirds, threes in a line, and what may be added to a set without them."""
 
 UNFIT = -22
 NO_POINT = -2
+IN_LINE = -33
 MOST_NUMBERS = 4
 
 
@@ -23,6 +24,26 @@ def threes(n, s):
     for line in lines:
         answer.extend(line)
     return answer
+
+
+def may(n, s):
+    """Answer how many points may be added to the set s, then these."""
+    if not has_points(n) or not is_set(n, s):
+        return [UNFIT]
+    if has_line(n, s):
+        return [IN_LINE]
+    free = free_points(n, s)
+    return [len(free)] + free
+
+
+def filled(n, s):
+    """Answer how many points the set s has when it is filled, then these."""
+    if not has_points(n) or not is_set(n, s):
+        return [UNFIT]
+    if has_line(n, s):
+        return [IN_LINE]
+    full = fill(n, s)
+    return [len(full)] + full
 
 
 def has_points(n):
@@ -78,3 +99,34 @@ def lines_of(n, s):
             if last > second and last in members:
                 lines.append((first, second, last))
     return lines
+
+
+def has_line(n, s):
+    """Tell whether the set s has three in a line."""
+    return len(lines_of(n, s)) > 0
+
+
+def may_be_added(n, s, point):
+    """Tell whether the point is not in s, and with no two different ones of s makes three in a line."""
+    if point in s:
+        return False
+    for member in s:
+        # The point is not the member, so their third is neither of them: it would be another one of s.
+        if third_point(n, point, member) in s:
+            return False
+    return True
+
+
+def free_points(n, s):
+    """List the points that may be added to s, rising."""
+    return [point for point in range(point_count(n)) if may_be_added(n, s, point)]
+
+
+def fill(n, s):
+    """List the points of s when it is filled, rising."""
+    full = list(s)
+    # One walk is enough: a point that may not be added to a set may not be added to a greater one.
+    for point in range(point_count(n)):
+        if may_be_added(n, full, point):
+            full.append(point)
+    return sorted(full)

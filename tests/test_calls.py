@@ -25,9 +25,27 @@ CALLS = (
     ("threes", (2, [2, 1])),
     ("threes", (3, list(range(100)))),
     ("threes", (LARGEST, [0, 1])),
+    ("may", (1, [])),
+    ("may", (2, [0, 1, 3])),
+    ("may", (4, [40])),
+    ("may", (3, [0, 1, 2])),
+    ("may", (4, list(range(100)))),
+    ("may", (5, [0, 1, 2])),
+    ("filled", (1, [])),
+    ("filled", (2, [7, 8])),
+    ("filled", (3, [26])),
+    ("filled", (4, [0, 80])),
+    ("filled", (4, all_points(4))),
+    ("filled", (2, [8, 7])),
+    ("filled", (0, [])),
 )
 
-PARAMETERS = {"third": ["n", "x", "y"], "threes": ["n", "s"]}
+PARAMETERS = {
+    "third": ["n", "x", "y"],
+    "threes": ["n", "s"],
+    "may": ["n", "s"],
+    "filled": ["n", "s"],
+}
 
 
 def answer_of(call):
@@ -55,6 +73,23 @@ class Interface(unittest.TestCase):
     def test_arguments_by_name(self):
         self.assertEqual(points.third(n=1, x=0, y=1), [2])
         self.assertEqual(points.threes(n=1, s=[0, 1, 2]), [1, 0, 1, 2])
+        self.assertEqual(points.may(n=1, s=[1]), [2, 0, 2])
+        self.assertEqual(points.filled(n=1, s=[1]), [2, 0, 1])
+
+    def test_each_call_is_tried(self):
+        self.assertEqual({name for name, handed in CALLS}, set(PARAMETERS))
+
+    def test_one_list_of_ints(self):
+        for call in CALLS:
+            answer = answer_of(call)
+            self.assertIs(type(answer), list, call)
+            self.assertEqual({type(value) for value in answer}, {int}, call)
+
+    def test_below_0_is_a_refusal_alone(self):
+        for call in CALLS:
+            answer = answer_of(call)
+            if min(answer) < 0:
+                self.assertEqual(len(answer), 1, call)
 
 
 class NothingIsChanged(unittest.TestCase):
@@ -71,7 +106,8 @@ class NothingIsChanged(unittest.TestCase):
 
     def test_the_answer_is_a_list_of_its_own(self):
         for s in ([], [0], [0, 1, 2], [1, 0]):
-            self.assertIsNot(points.threes(1, s), s)
+            for call in (points.threes, points.may, points.filled):
+                self.assertIsNot(call(1, s), s)
 
 
 class NothingIsKept(unittest.TestCase):
@@ -97,6 +133,17 @@ class NothingIsKept(unittest.TestCase):
         self.assertEqual(points.threes(2, s), [0])
         s.append(6)
         self.assertEqual(points.threes(2, s), [1, 0, 3, 6])
+
+    def test_a_list_filled_between_two_calls(self):
+        s = [8]
+        self.assertEqual(points.may(2, s), [8, 0, 1, 2, 3, 4, 5, 6, 7])
+        self.assertEqual(points.filled(2, s), [4, 0, 1, 5, 8])
+        s[0] = 7
+        self.assertEqual(points.may(2, s), [8, 0, 1, 2, 3, 4, 5, 6, 8])
+        self.assertEqual(points.filled(2, s), [4, 0, 1, 3, 7])
+        s.append(8)
+        self.assertEqual(points.may(2, s), [6, 0, 1, 2, 3, 4, 5])
+        self.assertEqual(points.filled(2, s), [4, 0, 1, 7, 8])
 
     def test_the_module_stays_as_it_was(self):
         def held():

@@ -4,20 +4,7 @@ import unittest
 
 import reference
 from nothreelines.points import third, threes
-from reference import LARGEST, SIZES, all_points
-
-
-def subsets(row):
-    """All sets of the row's points, each rising."""
-    found = [[]]
-    for point in row:
-        found = found + [s + [point] for s in found]
-    return found
-
-
-def picked(n, step, offset):
-    """A set that is neither regular nor full, the same at each run."""
-    return [point for point in all_points(n) if (point * point + offset * point) % step < step // 2]
+from reference import LARGEST, SIZES, all_points, picked, subsets
 
 
 class Answers(unittest.TestCase):
