@@ -1,9 +1,12 @@
-"""Points of n numbers modulo 3: thirds, threes in a line, and what may be added to a set without them."""
+"""Points of n numbers modulo 3: thirds, threes in a line, and sets without them."""
 
 UNFIT = -22
 NO_POINT = -2
+NOT_TOLD = -28
 IN_LINE = -33
 MOST_NUMBERS = 4
+# A table, as these never change: a search through the sets finds the same, but each call would wait for it.
+MOST_POINTS = {1: 2, 2: 4, 3: 9}
 
 
 def third(n, x, y):
@@ -44,6 +47,24 @@ def filled(n, s):
         return [IN_LINE]
     full = fill(n, s)
     return [len(full)] + full
+
+
+def whole(n, s):
+    """Answer 1 if the set s has no three in a line and no point may be added to it, else 0."""
+    if not has_points(n) or not is_set(n, s):
+        return [UNFIT]
+    if has_line(n, s) or len(free_points(n, s)) > 0:
+        return [0]
+    return [1]
+
+
+def most(n):
+    """Answer the most points that a set without three in a line has."""
+    if not has_points(n):
+        return [UNFIT]
+    if n not in MOST_POINTS:
+        return [NOT_TOLD]
+    return [MOST_POINTS[n]]
 
 
 def has_points(n):

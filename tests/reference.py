@@ -64,6 +64,26 @@ def filled(n, s):
     return [len(full)] + full
 
 
+def whole(n, s):
+    return [int(threes(n, s) == [0] and may(n, s) == [0])]
+
+
+def most(n):
+    """The most points of a set without three in a line, found by growing every set that could have more."""
+    third = {(x, y): thirds(n, x, y)[0] for x in all_points(n) for y in all_points(n)}
+
+    def grown(s, free, best):
+        best = max(best, len(s))
+        for i, point in enumerate(free):
+            if len(s) + len(free) - i <= best:
+                break
+            barred = [third[point, member] for member in s]
+            best = grown(s + [point], [x for x in free[i + 1:] if x not in barred], best)
+        return best
+
+    return grown([], all_points(n), 0)
+
+
 def subsets(row):
     """All sets of the row's points, each rising."""
     found = [[]]

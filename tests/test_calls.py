@@ -38,6 +38,18 @@ CALLS = (
     ("filled", (4, all_points(4))),
     ("filled", (2, [8, 7])),
     ("filled", (0, [])),
+    ("whole", (1, [])),
+    ("whole", (2, [0, 1, 3, 4])),
+    ("whole", (4, [0, 80])),
+    ("whole", (4, all_points(4))),
+    ("whole", (3, [0, 0])),
+    ("whole", (5, [])),
+    ("most", (0,)),
+    ("most", (1,)),
+    ("most", (2,)),
+    ("most", (3,)),
+    ("most", (4,)),
+    ("most", (LARGEST,)),
 )
 
 PARAMETERS = {
@@ -45,6 +57,8 @@ PARAMETERS = {
     "threes": ["n", "s"],
     "may": ["n", "s"],
     "filled": ["n", "s"],
+    "whole": ["n", "s"],
+    "most": ["n"],
 }
 
 
@@ -75,6 +89,8 @@ class Interface(unittest.TestCase):
         self.assertEqual(points.threes(n=1, s=[0, 1, 2]), [1, 0, 1, 2])
         self.assertEqual(points.may(n=1, s=[1]), [2, 0, 2])
         self.assertEqual(points.filled(n=1, s=[1]), [2, 0, 1])
+        self.assertEqual(points.whole(n=1, s=[0, 1]), [1])
+        self.assertEqual(points.most(n=1), [2])
 
     def test_each_call_is_tried(self):
         self.assertEqual({name for name, handed in CALLS}, set(PARAMETERS))
@@ -106,7 +122,7 @@ class NothingIsChanged(unittest.TestCase):
 
     def test_the_answer_is_a_list_of_its_own(self):
         for s in ([], [0], [0, 1, 2], [1, 0]):
-            for call in (points.threes, points.may, points.filled):
+            for call in (points.threes, points.may, points.filled, points.whole):
                 self.assertIsNot(call(1, s), s)
 
 
@@ -144,6 +160,14 @@ class NothingIsKept(unittest.TestCase):
         s.append(8)
         self.assertEqual(points.may(2, s), [6, 0, 1, 2, 3, 4, 5])
         self.assertEqual(points.filled(2, s), [4, 0, 1, 7, 8])
+
+    def test_a_list_made_whole_between_two_calls(self):
+        s = [0]
+        self.assertEqual(points.whole(1, s), [0])
+        s.append(2)
+        self.assertEqual(points.whole(1, s), [1])
+        s[1] = 0
+        self.assertEqual(points.whole(1, s), [-22])
 
     def test_the_module_stays_as_it_was(self):
         def held():
