@@ -1,4 +1,4 @@
-"""Points of n numbers modulo 3: thirds, threes in a line, and sets without them."""
+"""Points of n numbers modulo 3: thirds, threes in a line, sets without them, and how many points these have."""
 
 UNFIT = -22
 NO_POINT = -2
@@ -67,6 +67,20 @@ def most(n):
     return [MOST_POINTS[n]]
 
 
+def bound(n):
+    """Answer three times the rooms for two thirds of n, rounded down."""
+    if not has_points(n):
+        return [UNFIT]
+    return [3 * room_count(n, 2 * n // 3)]
+
+
+def rooms(n, d):
+    """Answer how many rows of n numbers 0, 1, 2 are d at most together."""
+    if not has_points(n):
+        return [UNFIT]
+    return [room_count(n, d)]
+
+
 def has_points(n):
     """Tell whether points may have n numbers."""
     return 1 <= n and n <= MOST_NUMBERS
@@ -83,6 +97,16 @@ def point_count(n):
 def is_point(n, x):
     """Tell whether x is the number of a point."""
     return 0 <= x and x < point_count(n)
+
+
+def numbers_of(n, point):
+    """List the n numbers of the point, the first one first."""
+    numbers = []
+    rest = point
+    for i in range(n):
+        numbers.append(rest % 3)
+        rest = rest // 3
+    return numbers
 
 
 def is_set(n, s):
@@ -151,3 +175,9 @@ def fill(n, s):
         if may_be_added(n, full, point):
             full.append(point)
     return sorted(full)
+
+
+def room_count(n, d):
+    """Count the rooms for d; n must be fit."""
+    # The rows of n numbers 0, 1, 2 are just those of the points, so a d however large makes no longer walk.
+    return len([point for point in range(point_count(n)) if sum(numbers_of(n, point)) <= d])

@@ -1,6 +1,8 @@
 """What the document says of points, done by trying out: slow, and apart from the package."""
 
+from fractions import Fraction
 from itertools import combinations, product
+from math import floor
 
 LARGEST = 4294967295
 SIZES = (1, 2, 3, 4)
@@ -84,6 +86,14 @@ def most(n):
     return grown([], all_points(n), 0)
 
 
+def rooms(n, d):
+    return [len([row for row in product((0, 1, 2), repeat=n) if sum(row) <= d])]
+
+
+def bound(n):
+    return [3 * rooms(n, floor(Fraction(2, 3) * n))[0]]
+
+
 def subsets(row):
     """All sets of the row's points, each rising."""
     found = [[]]
@@ -108,6 +118,16 @@ def without_lines(n):
                 s = sorted(s + [point])
                 found.append(s)
     return found
+
+
+def whole_sets(n):
+    """The whole sets that are known here: greatest ones, smaller ones, and those that grew from other sets."""
+    known = [GREATEST[n]] + without_lines(n)
+    if n in WHOLE_BUT_SMALL:
+        known.append(WHOLE_BUT_SMALL[n])
+    if n <= 2:
+        known = known + subsets(all_points(n))
+    return [s for s in known if whole(n, s) == [1]]
 
 
 def not_sets(n):

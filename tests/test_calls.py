@@ -50,6 +50,19 @@ CALLS = (
     ("most", (3,)),
     ("most", (4,)),
     ("most", (LARGEST,)),
+    ("bound", (0,)),
+    ("bound", (1,)),
+    ("bound", (2,)),
+    ("bound", (3,)),
+    ("bound", (4,)),
+    ("bound", (LARGEST,)),
+    ("rooms", (1, 0)),
+    ("rooms", (3, 2)),
+    ("rooms", (4, 5)),
+    ("rooms", (4, LARGEST)),
+    ("rooms", (0, 0)),
+    ("rooms", (5, 2)),
+    ("rooms", (LARGEST, LARGEST)),
 )
 
 PARAMETERS = {
@@ -59,6 +72,8 @@ PARAMETERS = {
     "filled": ["n", "s"],
     "whole": ["n", "s"],
     "most": ["n"],
+    "bound": ["n"],
+    "rooms": ["n", "d"],
 }
 
 
@@ -91,6 +106,8 @@ class Interface(unittest.TestCase):
         self.assertEqual(points.filled(n=1, s=[1]), [2, 0, 1])
         self.assertEqual(points.whole(n=1, s=[0, 1]), [1])
         self.assertEqual(points.most(n=1), [2])
+        self.assertEqual(points.bound(n=1), [3])
+        self.assertEqual(points.rooms(n=1, d=1), [2])
 
     def test_each_call_is_tried(self):
         self.assertEqual({name for name, handed in CALLS}, set(PARAMETERS))
