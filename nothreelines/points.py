@@ -1,4 +1,4 @@
-"""Points of n numbers modulo 3: thirds, threes in a line, sets without them, and how many points these have."""
+"""Points of n numbers modulo 3: thirds, threes in a line, sets without them, how large these are, and moves."""
 
 UNFIT = -22
 NO_POINT = -2
@@ -81,6 +81,16 @@ def rooms(n, d):
     return [room_count(n, d)]
 
 
+def moved(n, q, m, a, s):
+    """Answer how many points the set s has, then these moved, rising."""
+    if not has_points(n) or not is_set(n, s):
+        return [UNFIT]
+    if not is_order(n, q) or not is_row(n, m, 1) or not is_row(n, a, 0):
+        return [UNFIT]
+    images = sorted([moved_point(n, q, m, a, point) for point in s])
+    return [len(images)] + images
+
+
 def has_points(n):
     """Tell whether points may have n numbers."""
     return 1 <= n and n <= MOST_NUMBERS
@@ -109,6 +119,14 @@ def numbers_of(n, point):
     return numbers
 
 
+def point_of(numbers):
+    """Give the point that has these numbers, the first one first."""
+    point = 0
+    for number in reversed(numbers):
+        point = point * 3 + number
+    return point
+
+
 def is_set(n, s):
     """Tell whether s is a row of points, rising."""
     count = point_count(n)
@@ -118,6 +136,16 @@ def is_set(n, s):
             return False
         lowest = point + 1
     return True
+
+
+def is_order(n, q):
+    """Tell whether q is the numbers from 0 to n - 1 in some order."""
+    return sorted(q) == list(range(n))
+
+
+def is_row(n, row, lowest):
+    """Tell whether the row is n numbers from the lowest to 2."""
+    return len(row) == n and all([lowest <= number and number <= 2 for number in row])
 
 
 def third_point(n, x, y):
@@ -181,3 +209,9 @@ def room_count(n, d):
     """Count the rooms for d; n must be fit."""
     # The rows of n numbers 0, 1, 2 are just those of the points, so a d however large makes no longer walk.
     return len([point for point in range(point_count(n)) if sum(numbers_of(n, point)) <= d])
+
+
+def moved_point(n, q, m, a, point):
+    """Give the point whose number i is number q(i) of this one, times m(i), and a(i), modulo 3."""
+    numbers = numbers_of(n, point)
+    return point_of([(numbers[q[i]] * m[i] + a[i]) % 3 for i in range(n)])

@@ -1,7 +1,7 @@
 """What the document says of points, done by trying out: slow, and apart from the package."""
 
 from fractions import Fraction
-from itertools import combinations, product
+from itertools import combinations, permutations, product
 from math import floor
 
 LARGEST = 4294967295
@@ -92,6 +92,24 @@ def rooms(n, d):
 
 def bound(n):
     return [3 * rooms(n, floor(Fraction(2, 3) * n))[0]]
+
+
+def moved_row(row, q, m, a):
+    """What the numbers of a point become, number by number."""
+    return tuple((row[q[i]] * m[i] + a[i]) % 3 for i in range(len(row)))
+
+
+def moved(n, q, m, a, s):
+    images = [z for z in all_points(n) if any(ROWS[n][z] == moved_row(ROWS[n][x], q, m, a) for x in s)]
+    return [len(s)] + images
+
+
+def moves(n):
+    """All q, m and a that move points of n numbers."""
+    return [(list(q), list(m), list(a))
+            for q in permutations(range(n))
+            for m in product((1, 2), repeat=n)
+            for a in product((0, 1, 2), repeat=n)]
 
 
 def subsets(row):

@@ -63,6 +63,17 @@ CALLS = (
     ("rooms", (0, 0)),
     ("rooms", (5, 2)),
     ("rooms", (LARGEST, LARGEST)),
+    ("moved", (1, [0], [1], [0], [])),
+    ("moved", (2, [0, 1], [1, 1], [0, 0], [0, 1, 5])),
+    ("moved", (3, [2, 0, 1], [2, 1, 2], [1, 2, 0], [0, 5, 13, 26])),
+    ("moved", (4, [3, 1, 0, 2], [1, 2, 2, 1], [2, 0, 1, 1], all_points(4))),
+    ("moved", (0, [], [], [], [])),
+    ("moved", (2, [1, 1], [1, 2], [0, 1], [3, 4])),
+    ("moved", (2, [1, 0], [1, 0], [0, 1], [3, 4])),
+    ("moved", (2, [1, 0], [1, 2], [0, 3], [3, 4])),
+    ("moved", (2, [1, 0], [1, 2], [0, 1], [4, 3])),
+    ("moved", (4, list(range(100)), [1] * 100, [0] * 100, list(range(100)))),
+    ("moved", (LARGEST, [0], [1], [0], [0])),
 )
 
 PARAMETERS = {
@@ -74,6 +85,7 @@ PARAMETERS = {
     "most": ["n"],
     "bound": ["n"],
     "rooms": ["n", "d"],
+    "moved": ["n", "q", "m", "a", "s"],
 }
 
 
@@ -108,6 +120,7 @@ class Interface(unittest.TestCase):
         self.assertEqual(points.most(n=1), [2])
         self.assertEqual(points.bound(n=1), [3])
         self.assertEqual(points.rooms(n=1, d=1), [2])
+        self.assertEqual(points.moved(n=1, q=[0], m=[2], a=[1], s=[1, 2]), [2, 0, 2])
 
     def test_each_call_is_tried(self):
         self.assertEqual({name for name, handed in CALLS}, set(PARAMETERS))
@@ -141,6 +154,7 @@ class NothingIsChanged(unittest.TestCase):
         for s in ([], [0], [0, 1, 2], [1, 0]):
             for call in (points.threes, points.may, points.filled, points.whole):
                 self.assertIsNot(call(1, s), s)
+            self.assertIsNot(points.moved(1, [0], [1], [0], s), s)
 
 
 class NothingIsKept(unittest.TestCase):
@@ -185,6 +199,20 @@ class NothingIsKept(unittest.TestCase):
         self.assertEqual(points.whole(1, s), [1])
         s[1] = 0
         self.assertEqual(points.whole(1, s), [-22])
+
+    def test_a_list_moved_between_two_calls(self):
+        q, m, a, s = [0, 1], [1, 1], [0, 0], [1, 5]
+        self.assertEqual(points.moved(2, q, m, a, s), [2, 1, 5])
+        q.reverse()
+        self.assertEqual(points.moved(2, q, m, a, s), [2, 3, 7])
+        m[0] = 2
+        self.assertEqual(points.moved(2, q, m, a, s), [2, 3, 8])
+        a[1] = 1
+        self.assertEqual(points.moved(2, q, m, a, s), [2, 2, 6])
+        s.append(6)
+        self.assertEqual(points.moved(2, q, m, a, s), [3, 2, 4, 6])
+        s.append(6)
+        self.assertEqual(points.moved(2, q, m, a, s), [-22])
 
     def test_the_module_stays_as_it_was(self):
         def held():
